@@ -19,8 +19,8 @@ const (
 	minLog    = 3
 )
 
-// place is a disk and where on it what stands. It is one until one of its calls
-// fails: from then on nothing is done any more, since nobody knows what of it lasts.
+// place is a disk, and where on it what stands. When a call of the disk has
+// failed nothing is done on it any more, since nobody knows what of it lasts.
 type place struct {
 	disk *disk.Disk
 	log  int // how many sectors the log has
