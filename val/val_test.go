@@ -241,6 +241,14 @@ func all(v api.Val) {
 	Text(v)
 }
 
+// shared is a value of few lists, of which each is shared by all of the next one.
+func shared(v api.Val) api.Val {
+	for range 199 {
+		v = con(1, slices.Repeat([]api.Val{v}, 8)...)
+	}
+	return v
+}
+
 func TestValuesWithoutEnd(t *testing.T) {
 	for _, kind := range []int{api.Int, api.Str, api.Con, api.Tuple, api.Pref, 99} {
 		for n := 1; n < 9; n++ {
@@ -255,10 +263,9 @@ func TestValuesWithoutEnd(t *testing.T) {
 	for _, n := range []int{1000, 1001, 1 << 16} {
 		all(within(n, pref(1)))
 	}
-	// Of few lists, of which each is shared by all of the next one.
-	v := con(1)
-	for range 199 {
-		v = con(1, slices.Repeat([]api.Val{v}, 8)...)
+	v := shared(con(1))
+	if !Same(v, v) || !Same(v, shared(con(1))) || Same(v, shared(con(2))) || Same(v, v.Kids[0]) {
+		t.Error("lists that are shared aren't held against each other")
 	}
 	refused(t, "more than can be gone through", v, api.ErrBig)
 	refused(t, "one more", con(1, v), api.ErrForm)
