@@ -120,17 +120,19 @@ func TestTypesOfManyParts(t *testing.T) {
 // TestTooManyDontCount: variables of a name whose type has more than a thousand parts may be for all types.
 func TestTooManyDontCount(t *testing.T) {
 	for n := 990; n <= 1000; n++ {
-		// The type of x is a tuple of p's and q's; q's has n parts, once k is asked for.
-		src := datas + "(do (case (raise Div) (x (let h (fn (u) (case x ((tuple p q) p))) (let k (fn (u) (case x ((tuple p q) q))) %(seq (if True (k 1) " + sized(n) +
-			") (let g (fn (u) (h u)) (tuple (+ (g 1) 1) (cat @(g 1) \"a\"))))%)))))"
-		alone := strings.ReplaceAll(src, "%", "")
-		// Another name further inside has the variable of p's, too.
-		also := strings.Replace(strings.Replace(src, "%", "(case (ref (h 1)) (y ", 1), "%", "))", 1)
-		wantWrong(t, also, api.ErrType)
-		if n <= 998 {
-			wantWrong(t, alone, api.ErrType)
-		} else if b, at, err := Program(nodes(t, strings.Replace(alone, "@", "", 1))...); err != api.OK || b[0].Type != "(tuple int string)" {
-			t.Error(n, b, at, err)
+		for _, g := range []string{"(fn (u) (h u))", "h"} {
+			// The type of x is a tuple of p's and q's; q's has n parts, once k is asked for.
+			src := datas + "(do (case (raise Div) (x (let h (fn (u) (case x ((tuple p q) p))) (let k (fn (u) (case x ((tuple p q) q))) %(seq (if True (k 1) " + sized(n) +
+				") (let g " + g + " (tuple (+ (g 1) 1) (cat @(g 1) \"a\"))))%)))))"
+			alone := strings.ReplaceAll(src, "%", "")
+			// Another name further inside has the variable of p's, too.
+			also := strings.Replace(strings.Replace(src, "%", "(case (ref (h 1)) (y ", 1), "%", "))", 1)
+			wantWrong(t, also, api.ErrType)
+			if n <= 998 {
+				wantWrong(t, alone, api.ErrType)
+			} else if b, at, err := Program(nodes(t, strings.Replace(alone, "@", "", 1))...); err != api.OK || b[0].Type != "(tuple int string)" {
+				t.Error(n, b, at, err)
+			}
 		}
 	}
 }
@@ -142,6 +144,9 @@ func TestLongPrograms(t *testing.T) {
 	}
 	for _, src := range []string{
 		fill("(do (fn (s) (case s ", "(x s)", ")))"), fill("(do (case 1 ", "(x (raise Div))", "))"), fill("", "(def x (fn (x) x))", ""), fill(datas, "(def x (ref None))(def y (fn (x) x))", ""),
+		// many names with great types, whose variables aren't for all types
+		fill("(def a (raise Div))"+strings.Repeat("(def a (seq (tuple a a)))", 8)+strings.Repeat("(def c (seq a))", 1800), "(def y (fn (x) x))", ""),
+		fill("(do (case (raise Div) (a "+strings.Repeat("(let a (seq (tuple a a)) ", 8)+strings.Repeat("(let c (seq a) ", 150)+"(seq ", "(let y (fn (x) x) 1)", strings.Repeat(")", 162)),
 		fill("(do (seq ", "get ", "))"), fill("(do (seq ", "(let x (fn (x) x) 1)", "))"), "(data t () (A (->" + strings.Repeat(" (-> t int t)", 4000) + "))) (do 1)",
 	} {
 		if _, at, err := Program(nodes(t, src)...); err != api.OK {

@@ -1,6 +1,8 @@
 package infer
 
 import (
+	"slices"
+
 	"scriptor/api"
 	"scriptor/kind"
 	"scriptor/parse"
@@ -11,9 +13,10 @@ type binding struct {
 	name string
 	kind kind.Type
 	all  map[int]struct{} // the variables that stand for any types
-	// open: is it bound without "for all types", and may something be found out
-	// about its variables yet?
+	// open: is it bound without "for all types", and may it have variables?
 	open bool
+	// vars are those of its type, in full, when they were asked for; nil: they weren't.
+	vars []int
 	// under is the binding of that name which it hides; -1: there is none.
 	under int
 }
@@ -87,24 +90,35 @@ func (c *checker) forAll(full kind.Type) map[int]struct{} {
 		all[v] = struct{}{}
 	}
 	for i := range c.names.list {
-		b := &c.names.list[i]
 		if len(all) == 0 {
 			break
 		}
-		if !b.open {
-			continue
-		}
-		t, err := c.solver.Full(b.kind)
-		if err != api.OK {
-			continue
-		}
-		vars := kind.Vars(t)
-		b.open = len(vars) > 0
-		for _, v := range vars {
+		for _, v := range c.openVars(&c.names.list[i]) {
 			delete(all, v)
 		}
 	}
 	return all
+}
+
+// openVars are the variables of a binding that is open. A binding that has none,
+// or whose type is too big, stays so; and its type is as it was as long as none
+// of its variables stands for anything: names may be many, and their types great.
+func (c *checker) openVars(b *binding) []int {
+	if !b.open || b.vars != nil && !slices.ContainsFunc(b.vars, c.stands) {
+		return b.vars
+	}
+	b.vars = nil
+	if full, err := c.solver.Full(b.kind); err == api.OK {
+		b.vars = kind.Vars(full)
+	}
+	b.open = b.vars != nil
+	return b.vars
+}
+
+// stands: does a variable stand for anything by now?
+func (c *checker) stands(v int) bool {
+	t, err := c.solver.Full(kind.Var(v))
+	return err != api.OK || t.Op != 0 || t.Num != v
 }
 
 // use is the type of a name, where it stands: with variables of its own in the
